@@ -339,6 +339,9 @@ type deskReader struct {
 
 // next is the next part of a line as a number, without what stands ahead of it.
 func (r *deskReader) next(ahead string) int {
+	if len(r.parts) == 0 {
+		r.t.Fatal("a line has less than its name says")
+	}
 	part, ok := strings.CutPrefix(r.parts[0], ahead)
 	x, err := strconv.Atoi(part)
 	if !ok || err != nil {
@@ -397,6 +400,9 @@ func deskRead(t *testing.T, text string, values int) impl.Fn {
 			f.Blocks = append(f.Blocks, impl.Block{})
 			continue
 		}
+		if len(f.Blocks) == 0 {
+			t.Fatalf("%q stands ahead of all blocks", line)
+		}
 		b := &f.Blocks[len(f.Blocks)-1]
 		if b.Term.Kind != 0 || parts[0] == "phi" && len(b.List) > 0 {
 			t.Errorf("%q stands too far behind", line)
@@ -405,8 +411,10 @@ func deskRead(t *testing.T, text string, values int) impl.Fn {
 			b.Phis = append(b.Phis, impl.Phi{D: r.next("v"), Arms: r.arms()})
 		} else if i := slices.Index(deskPlaceNames, parts[0]); i >= 0 {
 			b.List = append(b.List, r.place(placeKinds[i]))
+		} else if i := slices.Index(deskEndNames, parts[0]); i >= 0 {
+			b.Term = r.end(termKinds[i])
 		} else {
-			b.Term = r.end(termKinds[slices.Index(deskEndNames, parts[0])])
+			t.Fatalf("%q begins with no name", line)
 		}
 		if len(r.parts) > 0 {
 			t.Errorf("%q has more than its name says", line)
